@@ -4,6 +4,7 @@ import (
 	"bytes"
 	"encoding/binary"
 	"math"
+	"strconv"
 	"strings"
 	"testing"
 
@@ -205,31 +206,8 @@ func TestGet4ValuesAboveTheLimit(t *testing.T) {
 func TestPutSharesNoMemory(t *testing.T) {
 	for _, c := range codecs() {
 		for _, n := range []int{0, 1, c.most, c.most + 1, -1} {
-			for length := range 4 {
-				whole := bytes.Repeat([]byte{77}, 20)
-				before := bytes.Clone(whole)
-				out := c.put(whole[:length], n)
-				other := c.put(whole[:length], n)
-				if !bytes.Equal(whole, before) {
-					t.Errorf("%s: put of %d changed its argument: %v", c.name, n, whole)
-				}
-				want := bytes.Clone(other)
-				fill(out[:cap(out)], 5)
-				if !bytes.Equal(whole, before) || !bytes.Equal(other, want) {
-					t.Errorf("%s: the result of put of %d shares memory", c.name, n)
-				}
-				fill(whole, 6)
-				if !bytes.Equal(other, want) {
-					t.Errorf("%s: the argument of put of %d shares memory", c.name, n)
-				}
-			}
+			checkFresh(t, c.name+": put of "+strconv.Itoa(n), func(b []byte) []byte { return c.put(b, n) })
 		}
-	}
-}
-
-func fill(b []byte, x byte) {
-	for i := range b {
-		b[i] = x
 	}
 }
 

@@ -1,0 +1,37 @@
+package tests
+
+import (
+	"bytes"
+	"testing"
+)
+
+func fill(b []byte, x byte) {
+	for i := range b {
+		b[i] = x
+	}
+}
+
+// checkFresh fails if put, a function that returns b with or without something
+// after it, changes b or its spare capacity, or if a result shares memory with
+// b or with another result.
+func checkFresh(t *testing.T, name string, put func(b []byte) []byte) {
+	t.Helper()
+	for length := range 4 {
+		whole := bytes.Repeat([]byte{77}, 40)
+		before := bytes.Clone(whole)
+		out := put(whole[:length])
+		other := put(whole[:length])
+		if !bytes.Equal(whole, before) {
+			t.Errorf("%s changed its argument: %v", name, whole)
+		}
+		want := bytes.Clone(other)
+		fill(out[:cap(out)], 5)
+		if !bytes.Equal(whole, before) || !bytes.Equal(other, want) {
+			t.Errorf("the result of %s shares memory", name)
+		}
+		fill(whole, 6)
+		if !bytes.Equal(other, want) {
+			t.Errorf("the argument of %s shares memory", name)
+		}
+	}
+}
