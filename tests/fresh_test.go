@@ -2,6 +2,7 @@ package tests
 
 import (
 	"bytes"
+	"slices"
 	"testing"
 )
 
@@ -33,5 +34,20 @@ func checkFresh(t *testing.T, name string, put func(b []byte) []byte) {
 		if !bytes.Equal(other, want) {
 			t.Errorf("the argument of %s shares memory", name)
 		}
+	}
+}
+
+// checkFreshStrings fails if two results of get, a function that always
+// returns the same strings, share memory.
+func checkFreshStrings(t *testing.T, name string, get func() []string) {
+	t.Helper()
+	out, other := get(), get()
+	want := slices.Clone(other)
+	out = out[:cap(out)]
+	for i := range out {
+		out[i] = "x"
+	}
+	if !slices.Equal(other, want) || !slices.Equal(get(), want) {
+		t.Errorf("two results of %s share memory", name)
 	}
 }

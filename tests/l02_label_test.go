@@ -321,14 +321,20 @@ func TestJoinLabels(t *testing.T) {
 	}
 }
 
-// Promise 2, for whole strings: all strings of up to six of these characters, and some long ones.
-func TestJoinLabelsOfLabels(t *testing.T) {
-	all := []string{""}
-	for start := 0; len(all[start]) < 6; start++ {
-		for _, c := range "aB." {
-			all = append(all, all[start]+string(c))
+// allStrings has all strings of up to size of these characters, the shorter ones first.
+func allStrings(characters string, size int) []string {
+	out := []string{""}
+	for start := 0; len(out[start]) < size; start++ {
+		for _, c := range characters {
+			out = append(out, out[start]+string(c))
 		}
 	}
+	return out
+}
+
+// Promise 2, for whole strings.
+func TestJoinLabelsOfLabels(t *testing.T) {
+	all := allStrings("aB.", 6)
 	all = append(all, strings.Repeat(".", 5000), strings.Repeat("a.", 5000), strings.Repeat("a", 5000), "\xff.\u00e9.\x00")
 	for _, s := range all {
 		l := impl.Labels(s)
@@ -375,15 +381,7 @@ func TestGetLabelChangesNothing(t *testing.T) {
 
 func TestLabelsSharesNoMemory(t *testing.T) {
 	for _, s := range []string{"", "a", "a.b.c", ".."} {
-		out, other := impl.Labels(s), impl.Labels(s)
-		want := slices.Clone(other)
-		out = out[:cap(out)]
-		for i := range out {
-			out[i] = "x"
-		}
-		if !slices.Equal(other, want) || !slices.Equal(impl.Labels(s), want) {
-			t.Errorf("two results of Labels(%q) share memory", s)
-		}
+		checkFreshStrings(t, "Labels of "+strconv.Quote(s), func() []string { return impl.Labels(s) })
 	}
 }
 
