@@ -18,22 +18,28 @@ func fill(b []byte, x byte) {
 func checkFresh(t *testing.T, name string, put func(b []byte) []byte) {
 	t.Helper()
 	for length := range 4 {
-		whole := bytes.Repeat([]byte{77}, 40)
-		before := bytes.Clone(whole)
-		out := put(whole[:length])
-		other := put(whole[:length])
-		if !bytes.Equal(whole, before) {
-			t.Errorf("%s changed its argument: %v", name, whole)
-		}
-		want := bytes.Clone(other)
-		fill(out[:cap(out)], 5)
-		if !bytes.Equal(whole, before) || !bytes.Equal(other, want) {
-			t.Errorf("the result of %s shares memory", name)
-		}
-		fill(whole, 6)
-		if !bytes.Equal(other, want) {
-			t.Errorf("the argument of %s shares memory", name)
-		}
+		checkFreshAfter(t, name, bytes.Repeat([]byte{77}, length), put)
+	}
+}
+
+// checkFreshAfter is checkFresh for the bytes front alone.
+func checkFreshAfter(t *testing.T, name string, front []byte, put func(b []byte) []byte) {
+	t.Helper()
+	whole := append(bytes.Clone(front), bytes.Repeat([]byte{77}, 40)...)
+	before := bytes.Clone(whole)
+	out := put(whole[:len(front)])
+	other := put(whole[:len(front)])
+	if !bytes.Equal(whole, before) {
+		t.Errorf("%s changed its argument: %v", name, whole)
+	}
+	want := bytes.Clone(other)
+	fill(out[:cap(out)], 5)
+	if !bytes.Equal(whole, before) || !bytes.Equal(other, want) {
+		t.Errorf("the result of %s shares memory", name)
+	}
+	fill(whole, 6)
+	if !bytes.Equal(other, want) {
+		t.Errorf("the argument of %s shares memory", name)
 	}
 }
 
