@@ -666,11 +666,7 @@ func TestAllShortEncodings(t *testing.T) {
 
 // Promise 4: longer sequences, in which pointers lead to all offsets.
 func TestManyLongEncodings(t *testing.T) {
-	state := uint32(1)
-	next := func(n int) int {
-		state = state*1664525 + 1013904223
-		return int(state>>8) % n
-	}
+	next := draws(1)
 	names := someNames()
 	codes := map[int]int{}
 	for range 3000 {

@@ -566,11 +566,7 @@ func TestSortRecordsOfShortLists(t *testing.T) {
 // Records of which none is less are equal, so the one order that a stable sort
 // may return is the whole of what can be observed.
 func TestSortRecordsOfLongLists(t *testing.T) {
-	state := uint32(5)
-	next := func(n int) int {
-		state = state*1664525 + 1013904223
-		return int(state>>8) % n
-	}
+	next := draws(5)
 	good, bad, mixed := goodRecords(), badRecords(), mixedRecords()
 	for size := range 120 {
 		l := []impl.Record{}

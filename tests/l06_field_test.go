@@ -947,11 +947,7 @@ func scrambled(next func(n int) int, all []impl.Record, names []string) ([]byte,
 
 // Whatever the bytes, the program decodes as the model does.
 func TestManyEncodingsOfRecords(t *testing.T) {
-	state := uint32(3)
-	next := func(n int) int {
-		state = state*1664525 + 1013904223
-		return int(state>>8) % n
-	}
+	next := draws(3)
 	all, names := codedRecords(), someNames()
 	codes := map[int]int{}
 	for range 3000 {
