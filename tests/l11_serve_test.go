@@ -576,10 +576,10 @@ func manyInAll() (impl.Zone, []impl.Quest) {
 
 // checkServeSharing fails if the reply shares memory with the zone or the query,
 // between its sections, or with another reply.
-func checkServeSharing(t *testing.T, z impl.Zone, m impl.Msg) {
+func checkServeSharing(t *testing.T, z impl.Zone, m impl.Msg, serve func(z impl.Zone, m impl.Msg) impl.Msg) {
 	t.Helper()
 	before, query := slices.Clone(z.L), cloneMsg(m)
-	out, other := impl.Serve(z, m), impl.Serve(z, m)
+	out, other := serve(z, m), serve(z, m)
 	want := cloneMsg(other)
 	for section, l := range sectionsIn(&out) {
 		fillRecords((*l)[:cap(*l)], "x")
@@ -604,7 +604,7 @@ func TestServeSharesNoMemory(t *testing.T) {
 		m := full()
 		m.Q = l[kind]
 		wantKind(t, z, m.Q.Name, m.Q.Type, kind)
-		checkServeSharing(t, z, m)
+		checkServeSharing(t, z, m, impl.Serve)
 	}
 	for _, apex := range []string{"", "com", "org"} {
 		for _, q := range append(modelKeys(mixture()), impl.Quest{Name: "none", Type: impl.TyAddr}, impl.Quest{Name: "none.org"}) {
